@@ -82,12 +82,12 @@ func mayStandInSum(c api.Cell) bool {
 // isFlat tells whether the arguments of a right structure are of one cell each.
 func isFlat(t api.Term) bool { return len(t) == 1+t[0].N }
 
-// hasName tells whether a term is an atom or a structure of a name, by its first cell, as term.Is does: right or not.
+// hasName tells whether a term is an atom or a structure of a name, by its first cell, as term.Is does. The term need not be right, so that an atom's text is asked, too: a predicate is a name with an arity.
 func hasName(t api.Term) bool {
 	if len(t) == 0 {
 		return false
 	}
-	return t[0].Kind == api.Atom || t[0].Kind == api.Struct && term.IsName(t[0].Text)
+	return (t[0].Kind == api.Atom || t[0].Kind == api.Struct) && term.IsName(t[0].Text)
 }
 
 func isTrue(t api.Term) bool { return term.Is(t, "true", 0) }

@@ -360,6 +360,40 @@ func TestHeadsThatAreNotRight(t *testing.T) {
 	}
 }
 
+// TestHeadsOfNoName: an atom or a structure whose text is no name has no predicate, wherever it stands; those beside it have theirs.
+func TestHeadsOfNoName(t *testing.T) {
+	longest := strings.Repeat("a", api.MaxName)
+	named := program(t, "p. "+longest+"(X). p(X) :- p.")
+	texts := []string{"", "F", "_", "_a", "1", "7a", "p q", "p ", " p", "p-q", "p\n", "p\x00", "\u00e9", "p\u00e9", longest + "a", strings.Repeat("a", 1<<16)}
+	for _, s := range append(texts, strings.Fields("= := @ + - * < =< > >= =:= =\\= ( ) , . | :-")...) {
+		for arity := range 3 {
+			c := api.Cell{Kind: api.Struct, Text: s, N: arity}
+			if arity == 0 {
+				c = api.Cell{Kind: api.Atom, Text: s}
+			}
+			none := api.Clause{Head: append(api.Term{c}, slices.Concat(slices.Repeat([]api.Term{atom("a")}, arity)...)...), Body: []api.Term{atom("q")}}
+			if l := check.Preds(api.Program{none}, api.Program{none, none}); len(l) != 0 {
+				t.Errorf("Preds of %.20q with %d: %v", s, arity, l)
+			}
+			mixed := api.Program{none, named[0], none, named[1], named[2], none}
+			if l := check.Preds(api.Program{none}, mixed, named); !slices.Equal(l, preds("p/0 "+longest+"/1 p/1")) {
+				t.Errorf("Preds among %.20q with %d: %v", s, arity, l)
+			}
+			if l := check.Clauses(mixed, s, arity); len(l) != 0 {
+				t.Errorf("Clauses of %.20q with %d: %v", s, arity, l)
+			}
+			for d, want := range map[check.Pred]int{{Name: "p"}: 1, {Name: longest, Arity: 1}: 3, {Name: "p", Arity: 1}: 4} {
+				if l := check.Clauses(mixed, d.Name, d.Arity); !slices.Equal(l, []int{want}) {
+					t.Errorf("Clauses of %v among %.20q with %d: %v", d, s, arity, l)
+				}
+			}
+			if l := check.Reached(mixed, none.Head, atom("p")); slices.Contains(l, check.Pred{Name: "q"}) {
+				t.Errorf("Reached among %.20q with %d: %v", s, arity, l)
+			}
+		}
+	}
+}
+
 // TestLongPrograms: what no limit holds ends soon, too.
 func TestLongPrograms(t *testing.T) {
 	const n = 20000
