@@ -6,7 +6,7 @@ import (
 	"slices"
 
 	"purlin/api"
-	"purlin/term"
+	"purlin/order"
 )
 
 // sleeper is a goal that waits, with its number: they rise in the order in which goals began to wait.
@@ -124,17 +124,7 @@ func (w *waiting) varsOf(goal api.Name) []api.Name {
 func (w *waiting) sleeps(goal api.Name) bool { return len(w.varsOf(goal)) > 0 }
 
 // vars are all variables that have a row, rising.
-func (w *waiting) vars() []api.Name {
-	return slices.SortedFunc(maps.Keys(w.rows), rising)
-}
-
-// rising is the order by term.Less; the names of one map are all unlike.
-func rising(a, b api.Name) int {
-	if term.Less(a, b) {
-		return -1
-	}
-	return 1
-}
+func (w *waiting) vars() []api.Name { return order.Keys(w.rows) }
 
 // fork has rows of its own, as those are changed in place; a goal's variables are not.
 func (w *waiting) fork() waiting {

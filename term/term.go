@@ -7,6 +7,7 @@ import (
 
 	"purlin/api"
 	"purlin/letters"
+	"purlin/order"
 )
 
 // OfInt is a number as a term.
@@ -193,6 +194,4 @@ func IsName(s string) bool {
 }
 
 // Less tells which of two variables comes first.
-func Less(a, b api.Name) bool {
-	return a.Node < b.Node || a.Node == b.Node && a.Number < b.Number
-}
+func Less(a, b api.Name) bool { return order.Names(a, b) < 0 }
