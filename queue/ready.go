@@ -4,6 +4,7 @@ import (
 	"slices"
 
 	"purlin/api"
+	"purlin/copies"
 )
 
 // ready is the row of goals that can go, the next one first.
@@ -11,20 +12,11 @@ type ready struct {
 	row []api.Goal
 }
 
-// copied are goals with terms of their own.
-func copied(l []api.Goal) []api.Goal {
-	own := slices.Clone(l)
-	for i, g := range own {
-		own[i].Term = slices.Clone(g.Term)
-	}
-	return own
-}
-
 func (r *ready) put(l ...api.Goal) { r.row = append(r.row, l...) }
 
 func (r *ready) going() int { return len(r.row) }
 
-func (r *ready) first() api.Goal { return copied(r.row[:1])[0] }
+func (r *ready) first() api.Goal { return copies.Goals(r.row[:1])[0] }
 
 // leave lets the first one go. Its place is emptied, lest the row holds its term as long as those behind it are there.
 func (r *ready) leave() {
