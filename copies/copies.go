@@ -25,6 +25,27 @@ func Goals(l []api.Goal) []api.Goal {
 	return own
 }
 
+// Commits are commits with lists of their own.
+func Commits(l []api.Commit) []api.Commit {
+	own := slices.Clone(l)
+	for i, c := range own {
+		own[i] = Commit(c)
+	}
+	return own
+}
+
+// Commit is a commit with lists of its own.
+func Commit(c api.Commit) api.Commit {
+	c.Goal.Term = slices.Clone(c.Goal.Term)
+	c.Fresh = slices.Clone(c.Fresh)
+	c.Bound = slices.Clone(c.Bound)
+	for i, b := range c.Bound {
+		c.Bound[i].Term = slices.Clone(b.Term)
+	}
+	c.Goals = Goals(c.Goals)
+	return c
+}
+
 // Program is a program with clauses of its own.
 func Program(p api.Program) api.Program {
 	own := slices.Clone(p)

@@ -17,9 +17,10 @@ func TestCopiesStandAlone(t *testing.T) {
 	program := api.Program{{Head: cells(), Guards: []api.Term{cells()}, Body: []api.Term{cells(), cells()}, Locals: 3}, {}}
 	amount := api.Amount{Whole: 2, Bits: []int{1, 4}}
 	message := api.Message{Tag: api.Ship, Goal: api.Name{Node: 1}, Term: cells(), Count: 3, Flags: 1, Credit: api.Amount{Bits: []int{3}}}
-	want := fmt.Sprint(terms, goals, program, amount, message)
-	a, b, c, d, e := copies.Terms(terms), copies.Goals(goals), copies.Program(program), copies.Amount(amount), copies.Message(message)
-	if got := fmt.Sprint(a, b, c, d, e); got != want {
+	commits := []api.Commit{{Node: 1, Goal: api.Goal{Name: api.Name{Node: 1}, Term: cells()}, Fails: true, Clause: 4, Fresh: []api.Name{{Node: 1, Number: 3}}, Bound: []api.Binding{{Var: api.Name{Number: 2}, Term: cells()}}, Goals: []api.Goal{{Name: api.Name{Node: 2}, Term: cells()}}}, {}}
+	want := fmt.Sprint(terms, goals, program, amount, message, commits)
+	a, b, c, d, e, f := copies.Terms(terms), copies.Goals(goals), copies.Program(program), copies.Amount(amount), copies.Message(message), copies.Commits(commits)
+	if got := fmt.Sprint(a, b, c, d, e, f); got != want {
 		t.Errorf("%s, want %s", got, want)
 	}
 	clear(terms[0])
@@ -35,13 +36,20 @@ func TestCopiesStandAlone(t *testing.T) {
 	clear(amount.Bits)
 	clear(message.Term)
 	clear(message.Credit.Bits)
-	if got := fmt.Sprint(a, b, c, d, e); got != want {
+	clear(commits[0].Goal.Term)
+	clear(commits[0].Fresh)
+	clear(commits[0].Bound[0].Term)
+	clear(commits[0].Bound)
+	clear(commits[0].Goals[0].Term)
+	clear(commits[0].Goals)
+	clear(commits)
+	if got := fmt.Sprint(a, b, c, d, e, f); got != want {
 		t.Errorf("%s, want %s", got, want)
 	}
 }
 
 func TestCopiesOfNothing(t *testing.T) {
-	if copies.Terms(nil) != nil || copies.Goals(nil) != nil || copies.Program(nil) != nil || copies.Amount(api.Amount{}).Bits != nil || copies.Message(api.Message{}).Term != nil {
+	if copies.Terms(nil) != nil || copies.Goals(nil) != nil || copies.Program(nil) != nil || copies.Amount(api.Amount{}).Bits != nil || copies.Message(api.Message{}).Term != nil || copies.Commits(nil) != nil || copies.Commit(api.Commit{}).Goals != nil {
 		t.Error("a copy of nothing is something")
 	}
 }
