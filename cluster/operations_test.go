@@ -8,6 +8,7 @@ import (
 
 	"purlin/api"
 	"purlin/cluster"
+	"purlin/wire"
 )
 
 // sends is a program whose goal many(X) sends three goals to node 1.
@@ -85,6 +86,34 @@ func TestDeliverWithAnError(t *testing.T) {
 		}
 		expect(t, whole(c), whole(without))
 		do(t, c, "resend 1")
+	}
+}
+
+// TestRefusedReadStandsAhead: messages are taken in order, so that the Releases which would make room wait behind a Read that has none, whatever comes again.
+func TestRefusedReadStandsAhead(t *testing.T) {
+	c := clusterOf(t, exporting, 2, 1000)
+	do(t, c, "submit early(X)")
+	for c.Do(opOf(t, "step 0")) == api.OK {
+	}
+	do(t, c, "deliver 0", "step 1")
+	told := map[api.Errno]int{}
+	for range 40 {
+		do(t, c, "resend 0", "resend 1", "collect 0", "collect 1")
+		for n := len(c.Pending()); n > 0; n-- {
+			told[c.Do(opOf(t, "deliver 0"))]++
+		}
+		c.Do(opOf(t, "step 1"))
+	}
+	if len(told) != 2 || told[api.ErrExports] < 40 || c.Node(0).Link().Next(1) != 0 {
+		t.Error(told, c.Node(0).Link().Next(1))
+	}
+	var tags []api.Tag
+	for _, d := range c.Node(1).Link().Outbox() {
+		m, _, _ := wire.Decode(d.Bytes)
+		tags = append(tags, m.Tag)
+	}
+	if len(tags) == 0 || tags[0] != api.Read || !slices.Contains(tags, api.Release) || c.Verdict() != api.Running {
+		t.Error(tags, c.Verdict())
 	}
 }
 
