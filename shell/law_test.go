@@ -290,3 +290,20 @@ func TestFairTails(t *testing.T) {
 		t.Error(ended)
 	}
 }
+
+// TestThereAndBack is E9: what show tells is read as the same program.
+func TestThereAndBack(t *testing.T) {
+	for seed := range 40 {
+		r := rand.New(rand.NewSource(int64(seed)))
+		lines := []string{"clause " + one(r, programs), "clause " + one(r, programs), "clause a(_, X, _) :- X =< 2 * (3 - -1) | b = (c @ 1) @ 2, ?3_7 = X. a(_, _, _)."}
+		shown := eachAnswer(t, append(lines, "show"))[3]
+		again := ""
+		for l := range strings.Lines(shown) {
+			again += "clause " + l
+		}
+		l := eachAnswer(t, []string{strings.TrimSuffix(again, "\n"), "show"})
+		if l[1] != shown || strings.Contains(l[0], "error") {
+			t.Fatalf("%q; was %q", l, shown)
+		}
+	}
+}
